@@ -78,6 +78,7 @@ func TestTokens(t *testing.T) {
 		"% \xff\x00 $\r\na":  "a",
 		"truex true":         "truex true",
 		"(a)":                "( a )",
+		"zaz aza zz":         "zaz aza zz",
 		"\n\n":               "",
 		keywords:             keywords,
 		"methods classs out": "methods classs out",
