@@ -37,8 +37,12 @@ func TestAnyBytes(t *testing.T) {
 		b := make([]byte, r.Intn(60))
 		r.Read(b)
 		s := string(b)
-		if _, e := read.Fault(s); e != api.OK {
+		fault, e := read.Fault(s)
+		if e != api.OK {
 			t.Errorf("%q has no fault: %v", s, e)
+		}
+		if next, e := read.Next(s[:fault.At]); e != api.OK || len(next) == 0 {
+			t.Errorf("nothing can come next ahead of %+v in %q: %v", fault, s, e)
 		}
 		read.Mend(s)
 		read.Next(s)

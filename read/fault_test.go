@@ -23,8 +23,22 @@ func TestFault(t *testing.T) {
 		"$":                                  {At: 0, Line: 1, Text: "$"},
 		"then $":                             {At: 5, Line: 1, Text: "$"},
 		"$ then":                             {At: 0, Line: 1, Text: "$"},
-		"$ then )":                           {At: 7, Line: 1, Text: ")"},
-		"then $ x y":                         {At: 9, Line: 1, Text: "y"},
+		"$h":                                 {At: 0, Line: 1, Text: "$"},
+		"\xc3a":                              {At: 0, Line: 1, Text: "\xc3"},
+		"$ then )":                           {At: 0, Line: 1, Text: "$"},
+		"then $ x y":                         {At: 5, Line: 1, Text: "$"},
+		"then x y $":                         {At: 7, Line: 1, Text: "y"},
+		"then x $ y":                         {At: 7, Line: 1, Text: "$"},
+		"then 1\n$ 2":                        {At: 7, Line: 2, Text: "$"},
+		"then 1 + $ )":                       {At: 9, Line: 1, Text: "$"},
+		"then 1 ) $":                         {At: 7, Line: 1, Text: ")"},
+		"then 1 %$\n) $":                     {At: 10, Line: 2, Text: ")"},
+		"then $ é )":                         {At: 5, Line: 1, Text: "$"},
+		"then abcdefghi )":                   {At: 5, Line: 1, Text: "a"},
+		"then 07 )":                          {At: 5, Line: 1, Text: "0"},
+		"class a $ then":                     {At: 8, Line: 1, Text: "$"},
+		"class 5 $":                          {At: 6, Line: 1, Text: "5"},
+		"\n\n~ 5":                            {At: 2, Line: 3, Text: "~"},
 		"then x abcdefghi é":                 {At: 7, Line: 1, Text: "a"},
 		"then é":                             {At: 5, Line: 1, Text: "\xc3"},
 		"then 0 ~0":                          {At: 7, Line: 1, Text: "~"},
@@ -210,51 +224,71 @@ func randomTokens(r *rand.Rand) []string {
 }
 
 // TestRandomFaults holds faults, and what can come next, against what all ways
-// through the grammar say.
+// through the grammar say of the tokens ahead of the first wrong byte.
 func TestRandomFaults(t *testing.T) {
 	r := rand.New(rand.NewSource(2))
 	for range 1500 {
 		s, _, _ := strew(r, randomTokens(r))
 		all := cutAgain(s)
-		right := slices.DeleteFunc(slices.Clone(all), isWrong)
-		wrong := slices.DeleteFunc(slices.Clone(all), func(x api.ReadToken) bool { return !isWrong(x) })
-		end := api.ReadToken{At: len(s), Line: 1 + strings.Count(s, "\n")}
+		right := all
+		if i := slices.IndexFunc(all, isWrong); i >= 0 {
+			right = all[:i]
+		}
 		at := faultIn("Text", keysOf(right))
+		if at < 0 {
+			at = len(right)
+		}
 		fault, e := read.Fault(s)
-		switch places := append(right, end); {
-		case at >= 0 && at < len(right), at == len(right) && len(wrong) == 0:
-			want(t, s, fault, api.ReadFault{At: places[at].At, Line: places[at].Line, Text: places[at].Text})
-			want(t, s, e, api.OK)
-		case len(wrong) > 0:
-			want(t, s, fault, api.ReadFault{At: wrong[0].At, Line: wrong[0].Line, Text: wrong[0].Text})
-			want(t, s, e, api.OK)
-		default:
+		if at == len(all) && faultIn("Text", keysOf(all)) < 0 {
 			want(t, s, e, api.ErrNone)
+			want(t, s, fault, api.ReadFault{})
 			continue
 		}
-		if len(wrong) == 0 {
-			expectMore(t, s, fault, end)
-		}
+		end := api.ReadToken{At: len(s), Line: 1 + strings.Count(s, "\n")}
+		place := append(all, end)[at]
+		want(t, s, e, api.OK)
+		want(t, s, fault, api.ReadFault{At: place.At, Line: place.Line, Text: place.Text})
+		expectMore(t, s, all[:at], all[at:])
 	}
 }
 
 // expectMore asserts that something can come next ahead of a fault, but not
-// what stands there.
-func expectMore(t *testing.T, s string, fault api.ReadFault, end api.ReadToken) {
+// the token, or the end, that stands there.
+func expectMore(t *testing.T, s string, ahead, behind []api.ReadToken) {
 	t.Helper()
-	next, e := read.Next(s[:fault.At])
-	want(t, s, e, api.OK)
 	w := newWalker("Text")
-	for _, key := range keysOf(cutAgain(s[:fault.At])) {
+	for _, key := range keysOf(ahead) {
 		w.step(key)
 	}
+	fault, _ := read.Fault(s)
+	next, e := read.Next(s[:fault.At])
+	want(t, s, e, api.OK)
 	want(t, s, next, w.next())
-	key := ""
-	if fault.At < end.At {
-		key = keysOf(cutAgain(s[fault.At:]))[0]
+	there := false
+	switch {
+	case len(behind) == 0:
+		there = slices.Contains(next, "")
+	case !isWrong(behind[0]):
+		there = slices.Contains(next, keysOf(behind[:1])[0])
 	}
-	if len(next) == 0 || slices.Contains(next, key) {
+	if len(next) == 0 || there {
 		t.Errorf("ahead of %+v in %q: %q", fault, s, next)
+	}
+}
+
+// TestBehindWrongBytes puts tokens behind a wrong byte: they change no fault.
+func TestBehindWrongBytes(t *testing.T) {
+	r := rand.New(rand.NewSource(6))
+	for range 300 {
+		l := randomTokens(r)
+		s := strings.Join(l[:r.Intn(len(l)+1)], " ") + pick(r, " $", "\n~", " abcdefghi", " 00", "\t\xc3")
+		fault, e := read.Fault(s)
+		want(t, s, e, api.OK)
+		for _, more := range append(allNext, "\n% $", " $") {
+			got, e := read.Fault(s + " " + more)
+			want(t, s+" "+more, e, api.OK)
+			want(t, s+" "+more, got, fault)
+		}
 	}
 }
 

@@ -1,13 +1,13 @@
 package read
 
-import (
-	"consort/api"
-)
+import "consort/api"
 
-// text is what a source is cut into.
+// text is what a source is cut into. It ends at the first wrong byte, if there
+// is one: no fault stands behind it, for something can come next ahead of a
+// fault, and nothing can behind a wrong byte.
 type text struct {
 	rest
-	wrong []api.ReadToken // the wrong bytes
+	broken bool // what stands at its end is a wrong byte
 }
 
 // cutText cuts a source.
@@ -18,7 +18,7 @@ func cutText(source string) (text, api.Errno) {
 	t := text{rest: rest{end: api.ReadToken{At: len(source), Line: 1 + lines(source)}}}
 	for token := range tokens(source) {
 		if token.Kind == wrong {
-			t.wrong = append(t.wrong, token)
+			t.end, t.broken = token, true
 		} else {
 			t.tokens = append(t.tokens, token)
 		}
@@ -32,7 +32,7 @@ func cutRight(source string) (text, api.Errno) {
 	if e != api.OK {
 		return text{}, e
 	}
-	if len(t.wrong) > 0 {
+	if t.broken {
 		return text{}, api.ErrText
 	}
 	return t, api.OK

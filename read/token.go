@@ -7,7 +7,7 @@ import (
 	"consort/shape"
 )
 
-// wrong is the kind of what stands for a wrong byte among the tokens.
+// wrong is the kind of what stands for a wrong byte behind the tokens.
 const wrong api.ReadKind = 0
 
 const newLine = '\n'
@@ -37,8 +37,8 @@ func keywords() map[string]bool {
 	}
 }
 
-// tokens yields the tokens of a text. A wrong byte comes as one of the kind
-// wrong, and what was cut out with it is left out.
+// tokens yields the tokens of a text up to the first wrong byte, which comes
+// last, as one of the kind wrong: no function asks for what stands behind it.
 func tokens(source string) iter.Seq[api.ReadToken] {
 	return func(yield func(api.ReadToken) bool) {
 		words := keywords()
@@ -55,7 +55,7 @@ func tokens(source string) iter.Seq[api.ReadToken] {
 			if kind == wrong {
 				token.Text = text[:1]
 			}
-			if !yield(token) {
+			if !yield(token) || kind == wrong {
 				return
 			}
 			at += len(text)
